@@ -71,7 +71,7 @@ func MovedBy(p []Spot, a Spot) ([]Spot, bool) {
 	}
 	moved := make([]Spot, len(p))
 	for i, b := range p {
-		moved[i] = Spot{X: b.X + a.X, Y: b.Y + a.Y}
+		moved[i] = added(a, b)
 	}
 	if !PictureOk(moved) {
 		return nil, false
@@ -95,6 +95,11 @@ func TurnedOf(p []Spot) []Spot {
 // spotWithin compares with both ends: the least int has no counterpart with the other sign.
 func spotWithin(a Spot, far int) bool {
 	return -far <= a.X && a.X <= far && -far <= a.Y && a.Y <= far
+}
+
+// added takes spots of which no sum is greater than an int.
+func added(a, b Spot) Spot {
+	return Spot{X: a.X + b.X, Y: a.Y + b.Y}
 }
 
 // rowOrder is the order of the spots of a picture: less than 0 if a comes first, 0 if both are equal.
