@@ -35,8 +35,7 @@ func HasSpot(p []Spot, a Spot) bool {
 	if !PictureOk(p) {
 		return false
 	}
-	_, found := slices.BinarySearchFunc(p, a, rowOrder)
-	return found
+	return inPicture(p, a)
 }
 
 // UnionOf returns the picture of all spots of two pictures (PictureOk), and true; nil and false if these are more than MaxSpots, and for others.
@@ -44,11 +43,7 @@ func UnionOf(p []Spot, q []Spot) ([]Spot, bool) {
 	if !PictureOk(p) || !PictureOk(q) {
 		return nil, false
 	}
-	union := merged(p, q, rowOrder, inEither)
-	if len(union) > MaxSpots {
-		return nil, false
-	}
-	return union, true
+	return told(merged(p, q, rowOrder, inEither))
 }
 
 // CommonOf returns the picture of all spots that two pictures (PictureOk) both have; nil for others.
@@ -73,10 +68,7 @@ func MovedBy(p []Spot, a Spot) ([]Spot, bool) {
 	for i, b := range p {
 		moved[i] = added(a, b)
 	}
-	if !PictureOk(moved) {
-		return nil, false
-	}
-	return moved, true
+	return told(moved)
 }
 
 // TurnedOf returns a picture (PictureOk) turned by half a turn about the spot 0, 0: each number of each spot with the other sign; nil for others.
@@ -90,6 +82,20 @@ func TurnedOf(p []Spot) []Spot {
 		turned[len(p)-1-i] = Spot{X: -a.X, Y: -a.Y}
 	}
 	return turned
+}
+
+// told returns new spots in order, and true, if they are a picture, and nil and false for others.
+func told(p []Spot) ([]Spot, bool) {
+	if !PictureOk(p) {
+		return nil, false
+	}
+	return p, true
+}
+
+// inPicture takes a picture that is known to be one, so that many spots can be looked for in it.
+func inPicture(p []Spot, a Spot) bool {
+	_, found := slices.BinarySearchFunc(p, a, rowOrder)
+	return found
 }
 
 // spotWithin compares with both ends: the least int has no counterpart with the other sign.
