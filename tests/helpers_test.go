@@ -57,9 +57,12 @@ func setOf(p spots) map[impl.Spot]bool {
 
 // subsets is all pictures of spots of a block of 3 by 2, of which the first spot is x, y.
 func subsets(x, y int) []spots {
-	full := block(x, y, 3, 6)
+	return subsetsOf(block(x, y, 3, 6))
+}
+
+func subsetsOf(full spots) []spots {
 	var list []spots
-	for bits := range 64 {
+	for bits := range 1 << len(full) {
 		var p spots
 		for i, a := range full {
 			if bits>>i&1 == 1 {
@@ -167,24 +170,41 @@ func wantNone(t *testing.T, what string, got spots, ok bool) {
 	}
 }
 
-// roomy is a picture in the middle of a longer slice, with spare capacity behind it, so that whatever is written around it is seen.
-func roomy(p spots) (whole, part spots) {
-	const pad = 70
-	whole = make(spots, pad+len(p)+pad)
-	for i := range whole {
-		whole[i] = at(-7777, i)
-	}
-	copy(whole[pad:], p)
-	return whole, whole[pad : pad+len(p)]
+// scribble writes to all of a picture, its spare capacity included.
+func scribble(p spots) {
+	overwrite(p, at(9999, -9999))
 }
 
-// checkMemory calls a function twice with roomy copies of arguments: the arguments and what lies around them must stay,
-// and what is written to a result, up to its capacity, must be seen neither in an argument nor in a later result.
+func overwrite[T any](list []T, mark T) {
+	list = list[:cap(list)]
+	for i := range list {
+		list[i] = mark
+	}
+}
+
+// roomy is a slice in the middle of a longer one, with spare capacity behind it, so that whatever is written around it is seen.
+func roomy[T any](list []T, mark T) (whole, part []T) {
+	const pad = 70
+	whole = make([]T, pad+len(list)+pad)
+	overwrite(whole, mark)
+	copy(whole[pad:], list)
+	return whole, whole[pad : pad+len(list)]
+}
+
+// checkMemory is checkNew for pictures that lead to pictures.
 func checkMemory(t *testing.T, what string, call func(args []spots) spots, args ...spots) {
 	t.Helper()
-	var wholes, parts, before []spots
-	for _, p := range args {
-		whole, part := roomy(p)
+	checkNew(t, what, call, at(-7777, 7777), at(9999, -9999), args...)
+}
+
+// checkNew calls a function twice with roomy copies of arguments: the arguments and what lies around them must stay,
+// and what is written to a result, up to its capacity, must be seen neither in an argument nor in a later result.
+// The marks are two different values, which are in no argument and in no result.
+func checkNew[A, R comparable](t *testing.T, what string, call func(args [][]A) []R, argMark A, mark R, args ...[]A) {
+	t.Helper()
+	var wholes, parts, before [][]A
+	for _, list := range args {
+		whole, part := roomy(list, argMark)
 		wholes, parts, before = append(wholes, whole), append(parts, part), append(before, slices.Clone(whole))
 	}
 	stays := func(when string) {
@@ -197,22 +217,21 @@ func checkMemory(t *testing.T, what string, call func(args []spots) spots, args 
 	}
 	first := call(parts)
 	want := slices.Clone(first)
+	wantList := func(when string, got []R) {
+		t.Helper()
+		if !slices.Equal(got, want) {
+			t.Fatalf("%s %s: got %v, want %v", what, when, got, want)
+		}
+	}
 	stays("by the call")
-	scribble(first)
+	overwrite(first, mark)
 	stays("with the result")
 	second := call(parts)
-	wantPicture(t, what+" once more", second, want)
-	scribble(first)
-	wantPicture(t, what+" beside the result of before", second, want)
+	wantList("once more", second)
+	overwrite(first, mark)
+	wantList("beside the result of before", second)
 	for i := range wholes {
-		scribble(wholes[i])
+		overwrite(wholes[i], argMark)
 	}
-	wantPicture(t, what+" after a change of the arguments", second, want)
-}
-
-func scribble(p spots) {
-	p = p[:cap(p)]
-	for i := range p {
-		p[i] = at(9999, -9999)
-	}
+	wantList("after a change of the arguments", second)
 }

@@ -615,14 +615,7 @@ func TestLoneSpotsAndBordersOfSmallPictures(t *testing.T) {
 			checkLone(t, p)
 		}
 	}
-	around := block(-1, -1, 3, 9)
-	for bits := range 512 {
-		var p spots
-		for i, a := range around {
-			if bits>>i&1 == 1 {
-				p = append(p, a)
-			}
-		}
+	for _, p := range subsetsOf(block(-1, -1, 3, 9)) {
 		checkLone(t, p)
 	}
 }
