@@ -94,8 +94,13 @@ func told(p []Spot) ([]Spot, bool) {
 
 // inPicture takes a picture that is known to be one, so that many spots can be looked for in it.
 func inPicture(p []Spot, a Spot) bool {
-	_, found := slices.BinarySearchFunc(p, a, rowOrder)
+	_, found := indexIn(p, a)
 	return found
+}
+
+// indexIn returns at which index spots in order, of which there may be more than a picture has, have a spot, and whether they do.
+func indexIn(list []Spot, a Spot) (int, bool) {
+	return slices.BinarySearchFunc(list, a, rowOrder)
 }
 
 // spotWithin compares with both ends: the least int has no counterpart with the other sign.
@@ -150,4 +155,8 @@ func inEither(inA, inB bool) bool {
 
 func inBoth(inA, inB bool) bool {
 	return inA && inB
+}
+
+func inFirstAlone(inA, inB bool) bool {
+	return inA && !inB
 }
